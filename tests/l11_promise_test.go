@@ -324,11 +324,9 @@ func TestNewClusterIsNewMemory(t *testing.T) {
 	}
 }
 
-// Lists of one memory, in a cluster and in what is submitted to it, are not
-// changed, and each one of an answer is for itself.
-func TestClustersOfOneMemoryAreNotChanged(t *testing.T) {
-	legs := slices.Grow(pair(0).Legs, 4)
-	x, y := impl.Contract{Id: 2, Legs: legs}, impl.Contract{Id: 4, Legs: legs}
+// clusterOfOneMemory has lists that lie in one memory, with room behind their
+// ends, wherever two may be the same.
+func clusterOfOneMemory(legs []impl.Leg) impl.Cluster {
 	marked := slices.Grow(marks(mark(2, 2)), 4)
 	slots := slices.Grow(slotsOf(elsewhere(slotOf(2, ready(0)), 2, 0)), 4)
 	shared := impl.Leader{
@@ -337,8 +335,8 @@ func TestClustersOfOneMemoryAreNotChanged(t *testing.T) {
 		Known: slices.Grow(heardOf(2, 0, ready(0), 0, 1), 4),
 	}
 	shared.Tries[0].Olds = slices.Grow(votes(noVote()), 4)
-	c := impl.Cluster{
-		Contracts: slices.Grow(heldOf(x, y), 4),
+	return impl.Cluster{
+		Contracts: slices.Grow(heldOf(impl.Contract{Id: 2, Legs: legs}, impl.Contract{Id: 4, Legs: legs}), 4),
 		Shards:    []impl.Shard{{Index: 0, Balances: fullShard(9), Votes: marked, Done: marked}, {Index: 1, Balances: fullShard(9), Votes: marked, Done: marked}},
 		Acceptors: slices.Repeat(acceptorsOf(impl.Acceptor{Slots: slots}), 3),
 		Leaders:   []impl.Leader{shared, shared},
@@ -347,9 +345,19 @@ func TestClustersOfOneMemoryAreNotChanged(t *testing.T) {
 			openedTo(0, 1, 2, 0, 2, ready(0)), openedTo(1, 2, 2, 0, 2, noVote()), saidTo(0, 2, 2, 0, ready(0)), saidTo(1, 2, 2, 1, not(0)), tellTo(0, 4, 2), tellTo(1, 4, 2),
 		), 4),
 	}
+}
+
+// Lists of one memory, in a cluster and in what is submitted to it, are not
+// changed, and each one of an answer is for itself.
+func TestClustersOfOneMemoryAreNotChanged(t *testing.T) {
+	legs := slices.Grow(pair(0).Legs, 4)
+	c := clusterOfOneMemory(legs)
 	checkClusterRight(t, "of one memory", c)
 	before, own := whole(reflect.ValueOf(c)), cloneCluster(c)
-	calls := append(clusterCalls(c, heldOf(x, y)), clusterCall{name: "submit", x: impl.Contract{Id: 3, Legs: legs}}, clusterCall{name: "submit", x: impl.Contract{Id: 9, Legs: legs}})
+	calls := append(clusterCalls(c, own.Contracts), clusterCall{name: "submit", x: impl.Contract{Id: 3, Legs: legs}}, clusterCall{name: "submit", x: impl.Contract{Id: 9, Legs: legs}})
+	for _, x := range c.Contracts {
+		calls = append(calls, clusterCall{name: "submit", x: x})
+	}
 	for _, k := range calls {
 		r := k.run(c)
 		checkClusterResult(t, k.name, r, k.want(own))
