@@ -371,24 +371,9 @@ func TestDrivesOfOneMemoryAreNotChanged(t *testing.T) {
 	c := clusterOfOneMemory(slices.Grow(pair(0).Legs, 4))
 	balances := slices.Grow(fullShard(9), 4)
 	c.Shards[0].Balances, c.Shards[1].Balances = balances, balances
-	before, own := whole(reflect.ValueOf(c)), cloneCluster(c)
-	var answers []reflect.Value
+	kept, own := keptOf(c), cloneCluster(c)
 	for name, call := range driveCalls(c) {
-		told := reflect.ValueOf(call(c))
-		if want := call(own); !reflect.DeepEqual(told.Interface(), want) {
-			t.Errorf("%s: %+v, want %+v", name, told, want)
-		}
-		checkApart(t, told, reflect.ValueOf(c))
-		for _, other := range answers {
-			if overlap(memoryOf(told), memoryOf(other)) {
-				t.Errorf("%s: shares memory with another answer", name)
-			}
-		}
-		// They are all kept: the memory of one that is gone may come again.
-		answers = append(answers, told)
-		if !reflect.DeepEqual(whole(reflect.ValueOf(c)), before) {
-			t.Fatalf("%s: changed", name)
-		}
+		kept.check(t, name, call(c), call(own))
 	}
 }
 

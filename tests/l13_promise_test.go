@@ -341,28 +341,13 @@ func TestAuditsOfOneMemoryAreNotChanged(t *testing.T) {
 	g, c := appliedOfOneMemory()
 	checkClusterRight(t, "of one memory", c)
 	checkOrder(t, "of one memory", c, 7, 3)
-	all := reflect.ValueOf(struct {
+	kept := keptOf(struct {
 		G impl.Ledger
 		C impl.Cluster
 	}{g, c})
-	before, ownLedger, own := whole(all), cloneLedger(g), cloneCluster(c)
-	var answers []reflect.Value
+	ownLedger, own := cloneLedger(g), cloneCluster(c)
 	for name, call := range auditCalls() {
-		told := reflect.ValueOf(call(g, c))
-		if want := call(ownLedger, own); !reflect.DeepEqual(told.Interface(), want) {
-			t.Errorf("%s: %+v, want %+v", name, told, want)
-		}
-		checkApart(t, told, all)
-		for _, other := range answers {
-			if overlap(memoryOf(told), memoryOf(other)) {
-				t.Errorf("%s: shares memory with another answer", name)
-			}
-		}
-		// They are all kept: the memory of one that is gone may come again.
-		answers = append(answers, told)
-		if !reflect.DeepEqual(whole(all), before) {
-			t.Fatalf("%s: changed", name)
-		}
+		kept.check(t, name, call(g, c), call(ownLedger, own))
 	}
 	checkAudit(t, g, c)
 }
@@ -371,14 +356,7 @@ func TestAuditsOfOneMemoryAreNotChanged(t *testing.T) {
 func TestAuditsBehindOthersAreAsTheyWere(t *testing.T) {
 	g, c := appliedOfOneMemory()
 	for name, call := range auditCalls() {
-		first := call(g, c)
-		told := reflect.New(reflect.TypeOf(first)).Elem()
-		told.Set(reflect.ValueOf(first))
-		want := reflect.ValueOf(call(g, c))
-		scramble(told)
-		if got := call(g, c); !reflect.DeepEqual(got, want.Interface()) {
-			t.Errorf("%s: %+v, then %+v", name, want, got)
-		}
+		checkAsItWas(t, name, func() any { return call(g, c) })
 	}
 }
 

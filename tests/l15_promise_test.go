@@ -275,29 +275,14 @@ func TestServedOfOneMemoryAreNotChanged(t *testing.T) {
 	a := servedOfOneMemory()
 	checkClusterRight(t, "of one memory", a.c)
 	checkCode(t, "of one memory", impl.SessionsFault(a.list), impl.OK)
-	all := reflect.ValueOf(struct {
+	kept := keptOf(struct {
 		List []impl.Session
 		C    impl.Cluster
 		Legs []impl.Leg
 	}{a.list, a.c, a.legs})
-	before, own := whole(all), askedAs{list: cloneSessions(a.list), c: cloneCluster(a.c), legs: slices.Clone(a.legs)}
-	var answers []reflect.Value
+	own := askedAs{list: cloneSessions(a.list), c: cloneCluster(a.c), legs: slices.Clone(a.legs)}
 	for name, call := range servedCalls() {
-		told := reflect.ValueOf(call(a))
-		if want := call(own); !reflect.DeepEqual(told.Interface(), want) {
-			t.Errorf("%s: %+v, want %+v", name, told, want)
-		}
-		checkApart(t, told, all)
-		for _, other := range answers {
-			if overlap(memoryOf(told), memoryOf(other)) {
-				t.Errorf("%s: shares memory with another answer", name)
-			}
-		}
-		// They are all kept: the memory of one that is gone may come again.
-		answers = append(answers, told)
-		if !reflect.DeepEqual(whole(all), before) {
-			t.Fatalf("%s: changed", name)
-		}
+		kept.check(t, name, call(a), call(own))
 	}
 }
 
@@ -305,14 +290,7 @@ func TestServedOfOneMemoryAreNotChanged(t *testing.T) {
 func TestServedBehindOthersAreAsTheyWere(t *testing.T) {
 	a := servedOfOneMemory()
 	for name, call := range servedCalls() {
-		first := call(a)
-		told := reflect.New(reflect.TypeOf(first)).Elem()
-		told.Set(reflect.ValueOf(first))
-		want := reflect.ValueOf(call(a))
-		scramble(told)
-		if got := call(a); !reflect.DeepEqual(got, want.Interface()) {
-			t.Errorf("%s: %+v, then %+v", name, want, got)
-		}
+		checkAsItWas(t, name, func() any { return call(a) })
 	}
 }
 

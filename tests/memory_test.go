@@ -207,3 +207,49 @@ func checkMemory(t *testing.T, name string, args []any, first, second reflect.Va
 		t.Fatalf("%s(%v): two answers share memory", name, args)
 	}
 }
+
+// keptAnswers are those of lists that lie in one memory. They are all kept, as
+// the memory of one that is gone may come again.
+type keptAnswers struct {
+	lists   reflect.Value
+	before  any
+	answers []reflect.Value
+}
+
+func keptOf(lists any) *keptAnswers {
+	v := reflect.ValueOf(lists)
+	return &keptAnswers{lists: v, before: whole(v)}
+}
+
+// check asks that an answer is what it is of lists that lie elsewhere, that
+// each of its lists is for itself, and that none of the others is changed.
+func (k *keptAnswers) check(t *testing.T, name string, told, want any) {
+	t.Helper()
+	if !reflect.DeepEqual(told, want) {
+		t.Errorf("%s: %+v, want %+v", name, told, want)
+	}
+	v := reflect.ValueOf(told)
+	checkApart(t, v, k.lists)
+	for _, other := range k.answers {
+		if overlap(memoryOf(v), memoryOf(other)) {
+			t.Errorf("%s: shares memory with another answer", name)
+		}
+	}
+	k.answers = append(k.answers, v)
+	if !reflect.DeepEqual(whole(k.lists), k.before) {
+		t.Fatalf("%s: changed", name)
+	}
+}
+
+// checkAsItWas asks that what is written into an answer is in no later one.
+func checkAsItWas(t *testing.T, name string, call func() any) {
+	t.Helper()
+	first := call()
+	told := reflect.New(reflect.TypeOf(first)).Elem()
+	told.Set(reflect.ValueOf(first))
+	want := call()
+	scramble(told)
+	if got := call(); !reflect.DeepEqual(got, want) {
+		t.Errorf("%s: %+v, then %+v", name, want, got)
+	}
+}
