@@ -62,6 +62,20 @@ func TestRunScript(t *testing.T) {
 	}
 }
 
+// Numbers that are said: both of safe, each outcome, how many are open, and
+// amounts of one digit and of several.
+func TestRunScriptSaysNumbers(t *testing.T) {
+	most := func(v impl.Vote) []impl.Slot { return slotsOf(castOf(v), castOf(v)) }
+	c := pairTold(most(ready(0)), most(not(3)), [2]int64{isReady, isNot}, [2]int64{})
+	c.Shards[2].Balances = bals(bal(1, 0, 7), bal(1, 2, 123456789012), bal(5, 2, impl.MaxAmount))
+	checkRunSaid(t, "safe", c, "what 7\nsafe\nhas 2 1 0\nhas 2 1 2\nhas 2 5 2\nhas 2 5 1", c, "what 2\nsafe 1\nhas 7\nhas 123456789012\nhas 1000000000000\nhas 0\n")
+	strange := settledFor(freshCluster(3, pair(7)), 7, 0)
+	checkRunSaid(t, "not safe", strange, "safe\nwhat 7\nsafe", strange, "safe 0\nwhat 0\nsafe 0\n")
+	crowd := freshCluster(5, contractsAt(1, 20)...)
+	checkRunSaid(t, "20 are open", crowd, "drain 0\ndrain -0\ndrain -1\ndrain 201", crowd, "open 20\nopen 20\n! 3\n! 3\n")
+	checkRunSaid(t, "some are open", crowd, "drain 3\ndrain 30\ndrain 200", behind(t, crowd, "drain 200"), "open 20\nopen 14\nopen 0\n")
+}
+
 // Nothing is said of lines without words, not even a line feed, wherever they
 // stand.
 func TestRunScriptOfLinesWithoutWords(t *testing.T) {
